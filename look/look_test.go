@@ -449,27 +449,28 @@ func checkGet(t *testing.T, g getter, x *table.Table, v api.View, p []int, kind 
 	if e != api.OK {
 		want = api.Object{}
 	}
-	before := x.Bytes()
 	o, f := g.get(x, v, p, kind)
 	if f != e || !sameObject(o, want) {
 		t.Errorf("%s of %v, kind %d, by %v: %v %v, not %v %v", g.name, p, kind, v, o, f, want, e)
 	}
-	checkTable(t, x, before)
 }
 
 // checkAll checks Find, See and Alter with each kind, where none finds the object.
 func checkAll(t *testing.T, x *table.Table, v api.View, p []int, e api.Errno) {
 	t.Helper()
+	before := x.Bytes()
 	for _, g := range getters() {
 		for _, kind := range kinds() {
 			checkGet(t, g, x, v, p, kind, api.Object{}, e)
 		}
 	}
+	checkTable(t, x, before)
 }
 
 // checkSeen checks Find, See and Alter with each kind of the object o, which is found: seen and altered are what See and Alter return where the kind is right.
 func checkSeen(t *testing.T, x *table.Table, v api.View, p []int, o api.Object, seen, altered api.Errno) {
 	t.Helper()
+	before := x.Bytes()
 	for _, kind := range kinds() {
 		s, a := seen, altered
 		if kind != 0 && kind != o.Kind {
@@ -479,6 +480,7 @@ func checkSeen(t *testing.T, x *table.Table, v api.View, p []int, o api.Object, 
 		checkGet(t, getters()[1], x, v, p, kind, o, s)
 		checkGet(t, getters()[2], x, v, p, kind, o, a)
 	}
+	checkTable(t, x, before)
 }
 
 // checkTable checks that the table is what it was before.
@@ -1256,6 +1258,7 @@ func TestRandom(t *testing.T) {
 	for seed := range int64(20) {
 		r := rand.New(rand.NewSource(seed))
 		x, w := randomTable(r)
+		before := x.Bytes()
 		for i := range 400 {
 			for _, what := range compare(t, r, x, w) {
 				found[what]++
@@ -1264,6 +1267,7 @@ func TestRandom(t *testing.T) {
 				t.Fatalf("seed %d, step %d", seed, i)
 			}
 		}
+		checkTable(t, x, before)
 	}
 	for _, name := range []string{"Find 0", "Find 30", "Find 32", "See 0", "See 30", "See 31", "See 32", "Alter 0", "Alter 30", "Alter 31", "Alter 32", "List 0", "List 30", "List 31", "List 32", "Read 0", "Read 30", "Read 31", "Read 32", "Read 37", "Load 0", "Load 30", "Load 31", "Load 32", "Load 37", "Who 0", "Who 30"} {
 		if found[name] < 10 {
